@@ -1,0 +1,114 @@
+package rewrite_test
+
+import (
+	"math/rand"
+	"testing"
+
+	"octavo/api"
+	"octavo/formula"
+	"octavo/rewrite"
+	"octavo/shift"
+)
+
+// P14.3
+
+func TestWhatDoesNotNameTheSheetStays(t *testing.T) {
+	r := rand.New(rand.NewSource(3))
+	stayed := 0
+	for range 60000 {
+		n, home, c := anyTree(r, 1+r.Intn(4)), anyHome(r), anyChange(r)
+		if rewrite.Names(n, home, c) {
+			continue
+		}
+		turns(t, n, home, c, n)
+		s := "= " + formula.Print(n)
+		same(t, asked(rewrite.Text(s, home, c)), texts{s, false, api.OK}, "Text", s, home, c)
+		stayed++
+	}
+	if stayed < 10000 {
+		t.Fatalf("only %d stayed", stayed)
+	}
+}
+
+// ordered: areas with the least corner first; those of one line have one way to fix it, since of two alike Ref's counts.
+func ordered(n api.Node) api.Node {
+	n = twin(n)
+	if n.Kind == 3 {
+		r, to := n.Ref, n.To
+		n.Ref.Row, n.To.Row = min(r.Row, to.Row), max(r.Row, to.Row)
+		n.Ref.Col, n.To.Col = min(r.Col, to.Col), max(r.Col, to.Col)
+		if r.Row == to.Row {
+			n.To.FixRow = r.FixRow
+		}
+		if r.Col == to.Col {
+			n.To.FixCol = r.FixCol
+		}
+	}
+	for i, a := range n.Args {
+		n.Args[i] = ordered(a)
+	}
+	return n
+}
+
+// keeps: does none of the cells of n that are of the sheet fall off?
+func keeps(n api.Node, home api.Place, c rewrite.Change) bool {
+	if (n.Kind == 2 || n.Kind == 3) && modelOf(home, c).ours(n.Ref) {
+		p := max(n.Ref.Row, n.To.Row)
+		if c.Cols {
+			p = max(n.Ref.Col, n.To.Col)
+		}
+		return p < c.Shift.At || p+c.Shift.N <= c.Shift.Most
+	}
+	for _, a := range n.Args {
+		if !keeps(a, home, c) {
+			return false
+		}
+	}
+	return true
+}
+
+func TestInsertedAndTakenAwayAgain(t *testing.T) {
+	r := rand.New(rand.NewSource(4))
+	moved := 0
+	for range 100000 {
+		n, home, c := ordered(anyTree(r, 1+r.Intn(4))), anyHome(r), anyChange(r)
+		if c.Drop {
+			continue
+		}
+		c.Shift.N = 1 + abs(c.Shift.N)/4
+		if !shift.Good(c.Shift) || !keeps(n, home, c) {
+			continue
+		}
+		back := c
+		back.Shift = shift.Back(c.Shift)
+		there, other := rewrite.Node(n, home, c)
+		again, otherAgain := rewrite.Node(there, home, back)
+		if !equal(again, n) || other != otherAgain {
+			t.Fatalf("%s, %v, %v: %s, and then %s, %v, %v", shown(n), home, c, shown(there), shown(again), other, otherAgain)
+		}
+		if other {
+			moved++
+		}
+	}
+	if moved < 5000 {
+		t.Fatalf("only %d moved", moved)
+	}
+}
+
+func abs(n int) int { return max(n, -n) }
+
+func TestTextThereAndBack(t *testing.T) {
+	for _, s := range []string{"=A1", "=A3", "=$A$62", "=SUM(A1:B2,A1:A62,S!C3:D9,[b]S!$A$1:B62)*tax", "=-A3%+T!A64", "=A3:A3+$A3:$B3"} {
+		there, _, e := rewrite.Text(s, inS, rows(3, 2))
+		same(t, e, api.OK, "Text", s)
+		again, _, e := rewrite.Text(there, inS, rows(3, -2))
+		same(t, e, api.OK, "Text", there)
+		same(t, again, s, "Text there and back")
+	}
+	// What falls off does not come back, nor does an area's end.
+	for _, x := range [][3]string{{"=A63", "=#REF!", "=#REF!"}, {"=A1:A63", "=A1:A64", "=A1:A62"}, {"=A63:A64", "=#REF!", "=#REF!"}} {
+		same(t, asked(rewrite.Text(x[0], inS, rows(3, 2))), texts{x[1], true, api.OK}, "Text", x[0])
+		got, _, _ := rewrite.Text(x[1], inS, rows(3, -2))
+		same(t, got, x[2], "Text there and back", x[0])
+	}
+}
