@@ -30,19 +30,13 @@ func TestWhatDoesNotNameTheSheetStays(t *testing.T) {
 	}
 }
 
-// ordered: areas with the least corner first; those of one line have one way to fix it, since of two alike Ref's counts.
+// ordered: areas with the least corner first.
 func ordered(n api.Node) api.Node {
 	n = twin(n)
 	if n.Kind == 3 {
 		r, to := n.Ref, n.To
 		n.Ref.Row, n.To.Row = min(r.Row, to.Row), max(r.Row, to.Row)
 		n.Ref.Col, n.To.Col = min(r.Col, to.Col), max(r.Col, to.Col)
-		if r.Row == to.Row {
-			n.To.FixRow = r.FixRow
-		}
-		if r.Col == to.Col {
-			n.To.FixCol = r.FixCol
-		}
 	}
 	for i, a := range n.Args {
 		n.Args[i] = ordered(a)
@@ -69,7 +63,7 @@ func keeps(n api.Node, home api.Place, c rewrite.Change) bool {
 
 func TestInsertedAndTakenAwayAgain(t *testing.T) {
 	r := rand.New(rand.NewSource(4))
-	moved := 0
+	moved, ofOneLine := 0, 0
 	for range 100000 {
 		n, home, c := ordered(anyTree(r, 1+r.Intn(4))), anyHome(r), anyChange(r)
 		if c.Drop {
@@ -89,9 +83,28 @@ func TestInsertedAndTakenAwayAgain(t *testing.T) {
 		if other {
 			moved++
 		}
+		if other && n.Kind == 3 && (n.Ref.Row == n.To.Row && n.Ref.FixRow != n.To.FixRow || n.Ref.Col == n.To.Col && n.Ref.FixCol != n.To.FixCol) {
+			ofOneLine++
+		}
 	}
-	if moved < 5000 {
-		t.Fatalf("only %d moved", moved)
+	if moved < 5000 || ofOneLine < 500 {
+		t.Fatalf("only %d moved, %d of them areas of one line that is fixed in one corner alone", moved, ofOneLine)
+	}
+}
+
+// Areas of one line, fixed in one corner alone, come back as they were.
+func TestAreasOfOneLineThereAndBack(t *testing.T) {
+	for _, x := range []struct {
+		was, is string
+		c       rewrite.Change
+	}{
+		{"A$1:B1", "A$2:B2", rows(1, 1)}, {"A1:B$1", "A2:B$2", rows(1, 1)}, {"S!A$3:B3", "S!A$5:B5", rows(3, 2)}, {"[b]S!A3:B$3", "[b]S!A5:B$5", rows(3, 2)},
+		{"$A1:A3", "$A1:A4", rows(2, 1)}, {"A1:$A3", "A1:$A4", rows(2, 1)}, {"$A1:A1", "$A2:A2", rows(1, 1)}, {"A1:$A$1", "A2:$A$2", rows(1, 1)},
+		{"$A1:A1", "$B1:B1", cols(1, 1)}, {"A1:$A2", "B1:$B2", cols(1, 1)}, {"A$1:C1", "A$1:E1", cols(2, 2)}, {"A1:A$1", "B1:B$1", cols(1, 1)}, {"$A1:A$1", "$B1:B$1", cols(1, 1)},
+	} {
+		becomes(t, x.was, inS, x.c, x.is)
+		x.c.Shift = shift.Back(x.c.Shift)
+		becomes(t, x.is, inS, x.c, x.was)
 	}
 }
 

@@ -67,38 +67,59 @@ func (f follower) within(n api.Node) bool {
 	return f.names(n) || slices.ContainsFunc(n.Args, f.within)
 }
 
-// node: n behind the change, with lists of its own all the way down.
-func (f follower) node(n api.Node) api.Node {
-	if f.names(n) {
-		left := false
-		if n.Kind == api.NodeRef {
-			n.Ref, left = f.ref(n.Ref)
-		} else {
-			n.Ref, n.To, left = f.area(corners(n.Ref, n.To))
-		}
-		if !left {
-			return api.Node{Kind: api.NodeValue, Value: api.Value{Kind: api.Bad, N: api.BadRef}}
-		}
+// node: n behind the change, with lists of its own all the way down; true, if anything is another one.
+func (f follower) node(n api.Node) (api.Node, bool) {
+	switch {
+	case !f.names(n):
+		return f.parts(n)
+	case n.Kind == api.NodeRef:
+		return f.movedRef(n.Ref)
 	}
-	n.Args = slices.Clone(n.Args)
-	for i, a := range n.Args {
-		n.Args[i] = f.node(a)
-	}
-	return n
+	return f.movedArea(n.Ref, n.To)
 }
 
-// corners: an area's corner of the least row and column, under r's names, and that of the greatest ones; each has the fixings that stood with its row and its column (of two alike r's).
-func corners(r, to api.Ref) (api.Ref, api.Ref) {
-	least, greatest := r, to
-	least.Row, least.Col, greatest.Row, greatest.Col = addr.Box(r, to)
-	for _, c := range []*api.Ref{&least, &greatest} {
-		c.FixRow, c.FixCol = to.FixRow, to.FixCol
-		if c.Row == r.Row {
-			c.FixRow = r.FixRow
-		}
-		if c.Col == r.Col {
-			c.FixCol = r.FixCol
-		}
+// parts: n as it is, with all that it has, but for its Args.
+func (f follower) parts(n api.Node) (api.Node, bool) {
+	other := false
+	n.Args = slices.Clone(n.Args)
+	for i, a := range n.Args {
+		moved, is := f.node(a)
+		n.Args[i], other = moved, other || is
 	}
-	return least, greatest
+	return n, other
+}
+
+// movedRef: a ref of the sheet, made anew: what else its node has is neither kept nor looked at.
+func (f follower) movedRef(r api.Ref) (api.Node, bool) {
+	moved, left := f.ref(r)
+	if !left {
+		return noRef(), true
+	}
+	return api.Node{Kind: api.NodeRef, Ref: moved}, moved != r
+}
+
+// movedArea: likewise an area.
+func (f follower) movedArea(r, to api.Ref) (api.Node, bool) {
+	least, greatest, left := f.area(corners(r, to))
+	if !left {
+		return noRef(), true
+	}
+	return api.Node{Kind: api.NodeArea, Ref: least, To: greatest}, least != r || greatest != to
+}
+
+func noRef() api.Node {
+	return api.Node{Kind: api.NodeValue, Value: api.Value{Kind: api.Bad, N: api.BadRef}}
+}
+
+// corners: an area's corner of the least row and column, under r's names, and that of the greatest ones. Rows and columns are turned each with its fixing. Two alike are not turned: each keeps its own fixing, so that an area of one line comes back from a change as it was.
+func corners(r, to api.Ref) (api.Ref, api.Ref) {
+	if to.Row < r.Row {
+		r.Row, to.Row = to.Row, r.Row
+		r.FixRow, to.FixRow = to.FixRow, r.FixRow
+	}
+	if to.Col < r.Col {
+		r.Col, to.Col = to.Col, r.Col
+		r.FixCol, to.FixCol = to.FixCol, r.FixCol
+	}
+	return r, to
 }

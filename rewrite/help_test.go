@@ -92,10 +92,10 @@ func twin(n api.Node) api.Node {
 	return n
 }
 
-// turns: n becomes want, and the answer beside it is whether that is another one.
+// turns: n becomes want, and the answer beside it is whether that is another one than n, by what is looked at in n.
 func turns(t *testing.T, n api.Node, home api.Place, c rewrite.Change, want api.Node) {
 	got, other := rewrite.Node(n, home, c)
-	if !equal(got, want) || other == equal(n, want) {
+	if !equal(got, want) || other == equal(bare(n, home, c), want) {
 		t.Helper()
 		t.Fatalf("Node(%s, %v, %v): %s, %v, want %s", shown(n), home, c, shown(got), other, shown(want))
 	}
@@ -157,9 +157,12 @@ func (m model) ours(r api.Ref) bool {
 	return book == m.c.Book && sheet == m.c.Sheet
 }
 
-// left: where the first and the last of the lines from lo to hi are found, as far as there are lines; 0, if none is.
+// left: where the first and the last of the lines from lo to hi are found, as far as there are lines; 0, if none is, or if they are no lines.
 func (m model) left(lo, hi int) (int, int) {
 	first, last := 0, 0
+	if lo < 1 || hi > m.c.Shift.Most {
+		return first, last
+	}
 	for i, p := range m.old {
 		if p == 0 || p < lo || p > hi {
 			continue
@@ -173,6 +176,23 @@ func (m model) left(lo, hi int) (int, int) {
 		return 0, 0
 	}
 	return first, min(last, m.c.Shift.Most)
+}
+
+// bare: n, with zeros in the refs and areas of the sheet where their kinds name nothing. (It needs no lines: changes may have very many.)
+func bare(n api.Node, home api.Place, c rewrite.Change) api.Node {
+	m := model{home: home, c: c}
+	switch {
+	case n.Kind == 2 && m.ours(n.Ref):
+		return ref(n.Ref)
+	case n.Kind == 3 && m.ours(n.Ref):
+		return area(n.Ref, n.To)
+	}
+	var l []api.Node
+	for _, a := range n.Args {
+		l = append(l, bare(a, home, c))
+	}
+	n.Args = l
+	return n
 }
 
 // node: what Node is to answer.
@@ -192,16 +212,14 @@ func (m model) node(n api.Node) api.Node {
 }
 
 func (m model) ref(r api.Ref) api.Node {
-	row, col := r.Row, r.Col
+	p := &r.Row
 	if m.c.Cols {
-		col, _ = m.left(col, col)
-	} else {
-		row, _ = m.left(row, row)
+		p = &r.Col
 	}
-	if m.c.Drop || row == 0 || col == 0 {
+	*p, _ = m.left(*p, *p)
+	if m.c.Drop || *p == 0 {
 		return gone()
 	}
-	r.Row, r.Col = row, col
 	return ref(r)
 }
 
@@ -211,31 +229,28 @@ type line struct {
 	fix bool
 }
 
-// ends: the least line and the greatest one; of two alike the first one twice.
+// ends: the least line and the greatest one; two alike as they are.
 func ends(a, b line) (line, line) {
-	switch {
-	case a.p < b.p:
-		return a, b
-	case b.p < a.p:
+	if b.p < a.p {
 		return b, a
 	}
-	return a, a
+	return a, b
 }
 
 func (m model) area(r, to api.Ref) api.Node {
 	top, bottom := ends(line{r.Row, r.FixRow}, line{to.Row, to.FixRow})
 	left, right := ends(line{r.Col, r.FixCol}, line{to.Col, to.FixCol})
+	least, greatest := &top.p, &bottom.p
 	if m.c.Cols {
-		left.p, right.p = m.left(left.p, right.p)
-	} else {
-		top.p, bottom.p = m.left(top.p, bottom.p)
+		least, greatest = &left.p, &right.p
 	}
-	if m.c.Drop || top.p == 0 || left.p == 0 {
+	*least, *greatest = m.left(*least, *greatest)
+	if m.c.Drop || *least == 0 {
 		return gone()
 	}
 	return area(
 		api.Ref{Book: r.Book, Sheet: r.Sheet, Row: top.p, Col: left.p, FixRow: top.fix, FixCol: left.fix},
-		api.Ref{Row: bottom.p, Col: right.p, FixRow: bottom.fix, FixCol: right.fix})
+		api.Ref{Book: to.Book, Sheet: to.Sheet, Row: bottom.p, Col: right.p, FixRow: bottom.fix, FixCol: right.fix})
 }
 
 // names: what Names is to answer.

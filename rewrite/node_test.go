@@ -127,12 +127,12 @@ func TestNodeTurnsCorners(t *testing.T) {
 	becomes(t, "D$4:$B2", inS, cols(3, -1), "$B2:C$4")
 }
 
-// Of two rows (columns) alike both have Ref's fixing. Rows that only the change makes one keep each their own.
+// Two rows (columns) alike are not turned: Ref keeps the fixing that stood with Ref's, To that with To's. So do rows that only the change makes one.
 func TestNodeOfCornersAlike(t *testing.T) {
 	for _, x := range []struct{ was, is string }{
-		{"A$1:B1", "A$1:B$1"}, {"A1:B$1", "A1:B1"}, {"B$1:A1", "A$1:B$1"}, {"B1:A$1", "A1:B1"}, {"A$1:B$1", "A$1:B$1"},
-		{"$A1:A2", "$A1:$A2"}, {"A1:$A2", "A1:A2"}, {"$A2:A1", "$A1:$A2"}, {"A2:$A1", "A1:A2"},
-		{"$A1:A1", "$A1:$A1"}, {"A1:$A$1", "A1:A1"}, {"A$1:$A1", "A$1:A$1"}, {"$A$1:A1", "$A$1:$A$1"}, {"$A2:A$2", "$A2:$A2"},
+		{"A$1:B1", "A$1:B1"}, {"A1:B$1", "A1:B$1"}, {"B$1:A1", "A$1:B1"}, {"B1:A$1", "A1:B$1"}, {"A$1:B$1", "A$1:B$1"}, {"$B$1:A1", "A$1:$B1"}, {"$B1:A$1", "A1:$B$1"}, {"B1:$A$1", "$A1:B$1"},
+		{"$A1:A2", "$A1:A2"}, {"A1:$A2", "A1:$A2"}, {"$A2:A1", "$A1:A2"}, {"A2:$A1", "A1:$A2"}, {"$A$2:A1", "$A1:A$2"}, {"A$2:$A1", "A1:$A$2"}, {"$A2:A$1", "$A$1:A2"},
+		{"$A1:A1", "$A1:A1"}, {"A1:$A$1", "A1:$A$1"}, {"A$1:$A1", "A$1:$A1"}, {"$A$1:A1", "$A$1:A1"}, {"$A2:A$2", "$A2:A$2"},
 	} {
 		becomes(t, x.was, inS, rows(9, 1), x.is)
 		becomes(t, x.was, inS, cols(9, -1), x.is)
@@ -143,6 +143,11 @@ func TestNodeOfCornersAlike(t *testing.T) {
 	becomes(t, "B$3:A1", inS, rows(2, -2), "A1:B$1")
 	becomes(t, "$A1:C2", inS, cols(2, -2), "$A1:A2")
 	becomes(t, "A62:A$64", inS, rows(3, 2), "A64:A$64")
+	becomes(t, "S!B1:A$1", inT, rows(9, 1), "S!A1:B$1")
+	stays(t, "[b]S!A$1:B1", inOther, rows(9, 1))
+	becomes(t, "S!$A5:A5+2", inS, rows(1, -1), "S!$A4:A4+2")
+	becomes(t, "B5:A$5", inS, rows(1, -1), "A4:B$4")
+	becomes(t, "B$5:B2", inS, cols(1, -1), "A2:A$5")
 }
 
 // Within calls, signs and operators, and several in one formula.
@@ -156,6 +161,80 @@ func TestNodeGoesDown(t *testing.T) {
 	}
 	for _, s := range []string{"1", "\"A3\"", "TRUE", "#REF!", "#DIV/0!", "tax", "S", "[b]S", "[b]tax", "F()", "A1+A2", "SUM(A1:B2,T!A3)", "-A1%"} {
 		stays(t, s, inS, rows(3, 1))
+	}
+}
+
+// besides: n, with one more of what a node may have, for each that its kind does not name.
+func besides(n api.Node) []api.Node {
+	var l []api.Node
+	for i := range 6 {
+		x := twin(n)
+		switch {
+		case i == 0:
+			x.S = "x"
+		case i == 1:
+			x.Value = api.Value{Kind: 1, N: 5}
+		case i == 2:
+			x.Args = []api.Node{ref(at(3, 1))}
+		case i == 3:
+			x.S, x.Value, x.Args = "-", api.Value{S: "S"}, []api.Node{call(ref(at(9, 9)), num(1)), {}}
+		case n.Kind == 3:
+			continue
+		case i == 4:
+			x.To = api.Ref{FixRow: true}
+		case i == 5:
+			x.To = of("c", "T", at(4, 4))
+		}
+		l = append(l, x)
+	}
+	return l
+}
+
+// R7: of the refs and areas of the sheet what their kinds do not name is zero in the answer, and not looked at: it is neither turned nor another one.
+func TestNodeOfWhatAKindDoesNotName(t *testing.T) {
+	for _, x := range []struct {
+		was, is api.Node
+		c       rewrite.Change
+		other   bool
+	}{
+		{ref(at(3, 1)), ref(at(4, 1)), rows(1, 1), true}, {ref(at(3, 1)), ref(at(3, 1)), rows(5, 1), false}, {ref(at(3, 1)), gone(), rows(3, -1), true}, {ref(at(3, 1)), gone(), drop(), true},
+		{ref(at(3, 1)), ref(at(3, 3)), cols(1, 2), true}, {ref(of("b", "S", at(3, 1))), ref(of("b", "S", at(3, 1))), cols(2, -2), false},
+		{area(at(3, 1), at(4, 2)), area(at(4, 1), at(5, 2)), rows(1, 1), true}, {area(at(3, 1), at(4, 2)), area(at(3, 1), at(4, 2)), rows(5, 1), false}, {area(at(4, 2), at(3, 1)), area(at(3, 1), at(4, 2)), rows(5, 1), true},
+		{area(at(3, 1), at(4, 2)), gone(), rows(3, -2), true}, {area(at(3, 1), at(4, 2)), gone(), drop(), true}, {area(of("", "S", at(3, 1)), at(4, 2)), area(of("", "S", at(3, 1)), at(4, 4)), cols(2, 2), true},
+	} {
+		for _, n := range append(besides(x.was), x.was) {
+			turns(t, n, inS, x.c, x.is)
+			got, other := rewrite.Node(call(n, num(1)), inS, x.c)
+			same(t, equal(got, call(x.is, num(1))), true, "Node of a call of it", shown(n), x.c, shown(got))
+			same(t, other, x.other, "Node of a call of it", shown(n), x.c)
+			same(t, rewrite.Names(n, inS, x.c), true, "Names", shown(n))
+		}
+	}
+	// Beside one that is another one.
+	got, other := rewrite.Node(call(besides(ref(at(1, 1)))[2], ref(at(3, 1)), besides(ref(at(1, 1)))[4]), inS, rows(2, 1))
+	same(t, equal(got, call(ref(at(1, 1)), ref(at(4, 1)), ref(at(1, 1)))), true, "Node", shown(got))
+	same(t, other, true, "Node", shown(got))
+}
+
+// All others stay as they are, with all that they have; their arguments alone are gone through.
+func TestNodeOfOthersWithMore(t *testing.T) {
+	more := api.Node{S: "x", Value: api.Value{Kind: 1, N: 5}, Ref: at(3, 1), To: of("", "S", at(4, 2))}
+	for kind := -1; kind <= 9; kind++ {
+		n := more
+		n.Kind = kind
+		if kind == 2 || kind == 3 {
+			n.Ref.Sheet = "T"
+		}
+		turns(t, n, inS, rows(1, 1), n)
+		turns(t, n, inS, drop(), n)
+		n.Args = []api.Node{ref(at(1, 1)), num(1)}
+		turns(t, n, inS, rows(5, 1), n)
+		want := n
+		want.Args = []api.Node{ref(at(2, 1)), num(1)}
+		turns(t, n, inS, rows(1, 1), want)
+		want.Args = []api.Node{gone(), num(1)}
+		turns(t, n, inS, drop(), want)
+		same(t, rewrite.Names(n, inS, drop()), true, "Names", shown(n))
 	}
 }
 

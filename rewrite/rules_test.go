@@ -68,16 +68,36 @@ func TestCallsAnswerTheSameAgain(t *testing.T) {
 	})
 }
 
-// A tree's answer says another one just if it is; and one that stays names the sheet or not.
+// A tree's answer says another one just if it is, by what is looked at; and one that stays names the sheet or not.
 func TestWildTreesSayWhatIsAnother(t *testing.T) {
 	r := rand.New(rand.NewSource(6))
 	for range 30000 {
 		n, home, c := wildTree(r, 1+r.Intn(4)), anyHome(r), wildChange(r)
 		got, other := rewrite.Node(n, home, c)
-		same(t, other, !equal(n, got), "Node", shown(n), home, c)
+		same(t, other, !equal(bare(n, home, c), got), "Node", shown(n), home, c)
 		if other {
 			same(t, rewrite.Names(n, home, c), true, "Names of what is turned", shown(n), home, c)
 		}
+	}
+}
+
+// Wild trees behind good changes, as the second way tells.
+func TestWildTreesByTheModel(t *testing.T) {
+	r := rand.New(rand.NewSource(9))
+	others, only := 0, 0
+	for range 60000 {
+		n, home, c := wildTree(r, 1+r.Intn(4)), anyHome(r), anyChange(r)
+		m := modelOf(home, c)
+		want := m.node(n)
+		turns(t, n, home, c, want)
+		if !equal(bare(n, home, c), want) {
+			others++
+		} else if !equal(n, want) {
+			only++
+		}
+	}
+	if others < 10000 || only < 1000 {
+		t.Fatalf("only %d became other ones, and %d were made bare alone", others, only)
 	}
 }
 
